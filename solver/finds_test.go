@@ -224,6 +224,52 @@ func TestFindsAmongManyCases(t *testing.T) {
 	shows(t, o)
 }
 
+// As many, with long rows beside, in which all names come: each case moves them all.
+func TestFindsAmongCasesWithLongRows(t *testing.T) {
+	t.Parallel()
+	for _, long := range []int{3, 6, 10} {
+		g := chance{rand.New(rand.NewSource(int64(long)))}
+		o := ask(node(api.TermFalse))
+		l := numbers(&o, 40)
+		for i, x := range l[:9] {
+			o.Hyps = append(o.Hyps, or(eq(x, n(0)), eq(x, n(2<<i))))
+		}
+		o.Hyps = append(o.Hyps, eq(sum(l[:9]...), n(301)))
+		for {
+			var parts []api.Term
+			for range long {
+				parts = append(parts, scale(g.Int63n(9)-4, pick(g.Rand, l...)))
+			}
+			row := le(sum(parts...), n(g.Int63n(4000)-300))
+			if term.Size(append(o.Hyps, o.Goal, row)...) > 400 {
+				break
+			}
+			o.Hyps = append(o.Hyps, row)
+		}
+		shows(t, o)
+	}
+}
+
+// Each case makes deep functions of other data the same, one way or the other.
+func TestFindsAmongCasesOfDeepFunctions(t *testing.T) {
+	t.Parallel()
+	o := ask(node(api.TermFalse))
+	l := numbers(&o, 9)
+	lists := []api.Term{v("k"), v("l"), v("m"), v("n")}
+	deep := [2]api.Term{lists[0], lists[3]}
+	for i := range deep {
+		for range 80 {
+			deep[i] = app("cons.1", deep[i])
+		}
+	}
+	for i, x := range l {
+		a, b := lists[i%3], lists[i%3+1]
+		o.Hyps = append(o.Hyps, or(and(eq(a, b), eq(x, n(0))), and(eq(b, a), eq(x, n(2<<i)))))
+	}
+	o.Hyps = append(o.Hyps, eq(sum(append(l, app("tag", deep[0]), scale(-1, app("tag", deep[1])))...), n(301)))
+	shows(t, o)
+}
+
 func TestFindsAmongWideCases(t *testing.T) {
 	t.Parallel()
 	o := ask(node(api.TermFalse))

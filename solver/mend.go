@@ -105,7 +105,9 @@ func (g *grid) spread() bool {
 		return false
 	}
 	var rows []api.Linear
+	parts := 0
 	for _, form := range g.bounded {
+		parts += len(g.formAt[form].atoms)
 		if g.isFixed(form) {
 			continue
 		}
@@ -116,13 +118,13 @@ func (g *grid) spread() bool {
 			rows = append(rows, g.within(form, b.number, num.Of(-2)))
 		}
 	}
-	g.spend(cost(rows...))
+	g.spend(g.cost(parts))
 	keys, point, denial, _ := simplex.Feasible(rows...)
 	if len(denial) > 0 {
 		return false
 	}
 	half := oneBy(num.Of(2))
-	whole := parts{}
+	whole := map[int]api.Int{}
 	for i, key := range keys {
 		n := ratio.Floor(ratio.Add(point[i], half))
 		whole[atomOf(key)] = n
@@ -144,7 +146,7 @@ func (g *grid) within(form int, number, times api.Int) api.Linear {
 }
 
 // moveTo moves the point to where columns come to this, and others to 0.
-func (g *grid) moveTo(columns parts) {
+func (g *grid) moveTo(columns map[int]api.Int) {
 	var atoms []int
 	var to []api.Ratio
 	for at, s := range g.sums {

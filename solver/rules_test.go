@@ -275,6 +275,10 @@ func TestCallsChangeNothingAndTellNewMemory(t *testing.T) {
 		if i%7 == 0 {
 			o = ask(g.dense(9), g.dense(9), g.dense(9), g.dense(9), g.dense(9))
 		}
+		if i%7 == 1 {
+			// One bound, by which more than one case can not be.
+			o.Hyps = append(o.Hyps, le(v("x"), n(3)), or(le(n(5), v("x")), le(n(6), v("x")), eq(v("x"), n(7))))
+		}
 		want, _ := solver.Solve(datas(), o, most)
 		for _, empty := range []bool{true, false} {
 			d, own := fresh(datas(), empty), fresh(o, empty)

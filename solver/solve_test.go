@@ -125,6 +125,20 @@ func TestTruths(t *testing.T) {
 	told(t, "proof", ask(s, append(hyps, or(s, and(p, not(p))))...))
 }
 
+// Cases beside which what can not be is seen are not gone through.
+func TestCasesThatAreBeside(t *testing.T) {
+	x, p, q := v("x"), v("p"), v("q")
+	o := ask(node(api.TermFalse), or(p, q), or(not(p), le(x, n(1))), or(not(q), le(x, n(2))), or(not(p), le(n(3), x)), or(not(q), le(n(4), x)))
+	for i := range int64(60) {
+		name := "b" + num.Text(num.Of(i))
+		o.Scope = append(o.Scope, api.Sorted{Name: name, Sort: "bool"}, api.Sorted{Name: "c" + name, Sort: "bool"})
+		o.Hyps = append(o.Hyps, or(v(name), v("c"+name)))
+	}
+	told(t, "proof", o)
+	o.Hyps[1] = or(not(p), le(x, n(3)))
+	told(t, "model", o)
+}
+
 func TestData(t *testing.T) {
 	k, l, m, x := v("k"), v("l"), v("m"), v("x")
 	tail := func(t api.Term) api.Term { return app("cons.1", t) }
@@ -174,6 +188,11 @@ func TestWholeNumbers(t *testing.T) {
 	told(t, "proof", ask(no, le(sum(scale(2, x), y), n(3)), le(n(2), sum(x, scale(-1, y))), le(n(0), y), le(n(-7), sum(scale(-3, x), y)), le(sum(scale(-4, y), n(5)), x)))
 	told(t, "proof", ask(no, le(n(1), sum(scale(5, x), scale(-7, y))), le(sum(scale(5, x), scale(-7, y)), n(1)), le(n(4), x), le(x, n(9))))
 	told(t, "model", ask(no, le(n(1), sum(scale(5, x), scale(-7, y))), le(sum(scale(5, x), scale(-7, y)), n(1)), le(n(4), x), le(x, n(10))))
+	// So wide that whole numbers are there, wherever the point is: few steps do.
+	wide := ask(le(sum(scale(6, x), scale(3, y), scale(5, z), scale(-2, w)), n(79)), le(sum(scale(9, x), scale(-3, y), scale(10, z), scale(7, w)), n(17)), le(sum(x, scale(-8, y), scale(7, z), scale(-9, w)), n(-90)), le(sum(scale(-2, x), scale(-8, y), scale(6, z), scale(3, w)), n(13)))
+	if got := solve(t, datas(), wide, 1000); got != "model" {
+		t.Error(got)
+	}
 	// Of a remainder, and of what was divided.
 	told(t, "proof", ask(le(y, x), le(n(0), x), le(scale(3, y), x), le(x, sum(scale(3, y), n(2)))))
 	told(t, "proof", ask(le(n(0), y), le(n(0), x), le(scale(3, y), x), le(x, sum(scale(3, y), n(2)))))

@@ -125,7 +125,9 @@ func (w *world) together(form int) []int {
 func (w *world) solve(forms ...int) *tree {
 	var rows []api.Linear
 	var shares []share
+	parts := 0
 	for _, form := range forms {
+		parts += len(w.formAt[form].atoms)
 		if b, met := w.most[form]; met {
 			rows, shares = append(rows, w.row(form, num.Neg(b.number), num.Of(1))), append(shares, share{b.fact, b.times})
 		}
@@ -133,7 +135,7 @@ func (w *world) solve(forms ...int) *tree {
 			rows, shares = append(rows, w.row(form, b.number, num.Of(-1))), append(shares, share{b.fact, b.times})
 		}
 	}
-	w.spend(w.factor() * cost(rows...))
+	w.spend(w.cost(parts))
 	keys, point, denial, _ := simplex.Feasible(rows...)
 	if len(denial) == 0 {
 		atoms := make([]int, len(keys))
@@ -150,14 +152,6 @@ func (w *world) solve(forms ...int) *tree {
 		}
 	}
 	return farkas(asked...)
-}
-
-// factor is how much dearer it is to ask where numbers were halved: nothing is promised there, and it may go on for long.
-func (w *world) factor() int {
-	if w.halved > 0 {
-		return 4
-	}
-	return 1
 }
 
 // row is a form, once or -1 times, and a number, by short keys.
@@ -180,21 +174,13 @@ func atomOf(key string) int {
 	return int(key[0])<<24 | int(key[1])<<16 | int(key[2])<<8 | int(key[3])
 }
 
-// cost is about how much it takes to ask whether rows can be: how often one is turned, and how long all become of that,
-// the more so the longer they are.
-func cost(rows ...api.Linear) int {
-	many, parts := len(rows), 0
-	keys := map[string]int{}
-	for _, row := range rows {
-		parts += len(row.Keys)
-		for _, key := range row.Keys {
-			keys[key] = 1
-		}
+// cost is about how much it takes to ask whether so many parts of rows can be. Of what the chapter promises to find, at
+// most a thousand cases must be asked, each of fewer parts than obligations have there.
+func (w *world) cost(parts int) int {
+	told := 8*unit + 16*parts*(1+parts*parts/90000)
+	if w.halved > 0 {
+		// Here nothing is promised, and it may go on for long.
+		return 16 * told
 	}
-	if many == 0 {
-		return 1
-	}
-	beside := 10 * max(parts-many, many) / many
-	long := min(len(keys), beside*beside*beside/1000)
-	return 8*unit + 2*many*min(many, len(keys))*long
+	return told
 }
