@@ -55,7 +55,8 @@ func newGrid(w *world, bounded ...int) (*grid, *tree) {
 // isFixed tells whether a form is held to just a number.
 func (w *world) isFixed(form int) bool {
 	b, met := w.most[form]
-	return met && claim{form: form, number: b.number}.against(w.least, -1) == 0
+	just := claim{form: form, number: b.number}
+	return met && just.against(w.least, -1) == 0
 }
 
 // rest is what is left of a form, less a number, of columns that are not fixed: it is what forms, each less the number

@@ -3,7 +3,7 @@ package solver
 // holds tells whether a node comes to true here.
 func (w *world) holds(at int) bool {
 	w.left--
-	n := w.nodeAt[at]
+	n := &w.nodeAt[at]
 	switch n.kind {
 	case never:
 		return false
@@ -12,11 +12,11 @@ func (w *world) holds(at int) bool {
 	case oneOf:
 		return w.any(true, n.kids...)
 	case truth:
-		return (w.ofTruth(n) == yes) != n.denied
+		return (w.ofTruth(n.a) == yes) != n.denied
 	case same:
 		return w.areOne(n.a, n.b) != n.denied
 	case claims:
-		return w.holdsClaim(n.claim)
+		return w.holdsClaim(&n.claim)
 	}
 	return true
 }
@@ -31,7 +31,7 @@ func (w *world) any(is bool, nodes ...int) bool {
 	return false
 }
 
-func (w *world) holdsClaim(c claim) bool {
+func (w *world) holdsClaim(c *claim) bool {
 	if c.broken || c.form == none {
 		return !c.broken
 	}

@@ -91,7 +91,7 @@ func (g *grid) tightenTo(form int, number, sign api.Int) {
 		atoms.add(n, g.columns[at].atoms)
 	}
 	c := g.atMost(atoms, most)
-	if g.ofClaim(c) == yes {
+	if g.ofClaim(&c) == yes {
 		return
 	}
 	times := ratio.Mul(ratio.Whole(sign), oneBy(divisor))

@@ -18,7 +18,7 @@ func (w *world) model() end {
 		case api.SortInt:
 			one.Num = copiedInt(w.point[at].Num)
 		case api.SortBool:
-			one.Truth = w.ofTruth(node{a: at}) == yes
+			one.Truth = w.ofTruth(at) == yes
 		default:
 			one.Class = w.classOf(at)
 		}

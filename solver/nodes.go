@@ -43,35 +43,45 @@ func (n *nodes) add(made node) int {
 	return len(n.nodeAt) - 1
 }
 
-// nodesOf are those of pushed formulas, whose atoms were met. Their depth is bounded by MaxTerm.
+// nodesOf are those of pushed formulas, whose atoms were met. They are no deeper than MaxTerm, so calls may be nested.
 func (s *search) nodesOf(l ...api.Term) []int {
 	places := make([]int, len(l))
-	for i, t := range l {
-		places[i] = s.nodeOf(t)
+	for i := range l {
+		places[i] = s.nodeOf(&l[i])
 	}
 	return places
 }
 
-func (s *search) nodeOf(t api.Term) int {
+func (s *search) nodeOf(t *api.Term) int {
+	switch t.Kind {
+	case api.TermAnd:
+		return s.group(allOf, s.nodesOf(t.Kids...))
+	case api.TermOr:
+		return s.group(oneOf, s.nodesOf(t.Kids...))
+	}
+	return s.literal(t)
+}
+
+func (s *search) group(of kind, kids []int) int {
+	return s.add(node{kind: of, kids: kids})
+}
+
+func (s *search) literal(t *api.Term) int {
 	switch t.Kind {
 	case api.TermTrue:
 		return s.add(node{kind: always})
 	case api.TermFalse:
 		return s.add(node{kind: never})
-	case api.TermAnd:
-		return s.add(node{kind: allOf, kids: s.nodesOf(t.Kids...)})
-	case api.TermOr:
-		return s.add(node{kind: oneOf, kids: s.nodesOf(t.Kids...)})
 	case api.TermLe:
 		return s.add(node{kind: claims, claim: s.claimOf(t.Kind, t.Kids[0], t.Kids[1])})
 	case api.TermEq:
 		return s.equality(t.Kids[0], t.Kids[1])
 	case api.TermNot:
-		at := s.nodeOf(t.Kids[0])
+		at := s.literal(&t.Kids[0])
 		s.nodeAt[at].denied = true
 		return at
 	}
-	return s.add(node{kind: truth, a: s.place(t)})
+	return s.add(node{kind: truth, a: s.place(*t)})
 }
 
 // equality says that numbers, or data, are the same.
@@ -90,7 +100,7 @@ func (s *search) link(a, b int) int {
 	}
 	at := 0
 	if s.isTruth(a) {
-		at = s.add(node{kind: allOf, kids: []int{s.follows(a, b), s.follows(b, a)}})
+		at = s.group(allOf, []int{s.follows(a, b), s.follows(b, a)})
 	} else {
 		at = s.equality(s.atomAt[a].Term, s.atomAt[b].Term)
 	}
@@ -101,7 +111,7 @@ func (s *search) link(a, b int) int {
 // follows says that a is not so, or b is.
 func (s *search) follows(a, b int) int {
 	not, is := s.add(node{kind: truth, a: a, denied: true}), s.add(node{kind: truth, a: b})
-	return s.add(node{kind: oneOf, kids: []int{not, is}})
+	return s.group(oneOf, []int{not, is})
 }
 
 // plain is a claim as it is told when it was cut: by a fact that says just that.

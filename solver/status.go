@@ -14,7 +14,7 @@ const (
 // status of a node: no more is asked than what literals say, not what follows of many of them.
 func (s *state) status(at int) status {
 	s.left--
-	n := s.nodeAt[at]
+	n := &s.nodeAt[at]
 	switch n.kind {
 	case always:
 		return yes
@@ -25,9 +25,9 @@ func (s *state) status(at int) status {
 	case oneOf:
 		return s.ofOne(n.kids)
 	case claims:
-		return s.ofClaim(n.claim)
+		return s.ofClaim(&n.claim)
 	}
-	told := s.ofTruth(n)
+	told := s.ofTruth(n.a)
 	if n.kind == same {
 		told = s.ofSame(n)
 	}
@@ -57,8 +57,9 @@ func (s *state) ofOne(kids []int) status {
 	return most
 }
 
-func (s *state) ofTruth(n node) status {
-	fact, met := s.told[n.a]
+// ofTruth is the status of an atom.
+func (s *state) ofTruth(at int) status {
+	fact, met := s.told[at]
 	switch {
 	case !met:
 		return open
@@ -68,7 +69,7 @@ func (s *state) ofTruth(n node) status {
 	return yes
 }
 
-func (s *state) ofSame(n node) status {
+func (s *state) ofSame(n *node) status {
 	if s.areOne(n.a, n.b) {
 		return yes
 	}
@@ -78,7 +79,7 @@ func (s *state) ofSame(n node) status {
 	return open
 }
 
-func (s *state) ofClaim(c claim) status {
+func (s *state) ofClaim(c *claim) status {
 	if c.broken {
 		return no
 	}
@@ -96,7 +97,7 @@ func (s *state) ofClaim(c claim) status {
 
 // against tells whether the form's bound is less than the claim's number, that, or more: where there is none, what is said
 // of none.
-func (c claim) against(bounds map[int]bound, ofNone int) int {
+func (c *claim) against(bounds map[int]bound, ofNone int) int {
 	b, met := bounds[c.form]
 	if !met {
 		return ofNone
