@@ -209,6 +209,35 @@ func TestWellFormedWithoutAnythingAround(t *testing.T) {
 	}
 }
 
+// However many names of the scope are asked for, the last one of each counts.
+func TestManyNamesOfTheScope(t *testing.T) {
+	r := rand.New(rand.NewSource(14))
+	for many := range 40 {
+		for range 40 {
+			var scope []api.Sorted
+			for range r.Intn(120) {
+				scope = append(scope, api.Sorted{Name: "a" + strconv.Itoa(r.Intn(many+1)), Sort: pick(r, "int", "int", "int", "bool", "gone")})
+			}
+			for i := range many + 1 - r.Intn(2)*r.Intn(2) {
+				scope = append(scope, api.Sorted{Name: "a" + strconv.Itoa((i+many/2)%(many+1)), Sort: "int"})
+			}
+			if r.Intn(3) == 0 {
+				scope = append(scope, api.Sorted{Name: "a" + strconv.Itoa(r.Intn(many+1)), Sort: pick(r, "bool", "gone")})
+			}
+			a := ints(yes())
+			for i := range many + 1 {
+				a = kind.With(a, most(name("a"+strconv.Itoa(i)), v()))
+			}
+			f := fun(a, param("f", a), param("a1", plain("int")), param("g", a))
+			for _, a := range []api.Type{a, f} {
+				if got, want := kind.WellFormed(world(), nil, scope, a), wrong(scope, a); got != want {
+					t.Fatal(shown(a), "is", got, "and not", want)
+				}
+			}
+		}
+	}
+}
+
 func TestWellFormedOfAnyType(t *testing.T) {
 	r := rand.New(rand.NewSource(2))
 	met := map[api.Errno]int{}

@@ -9,10 +9,11 @@ import (
 type former struct {
 	datas  []api.Data
 	kappas []api.Kappa
+	outside
 }
 
 // look is what is wrong with a type, its parts apart.
-func (f former) look(w work[string]) api.Errno {
+func (f *former) look(w work[string]) api.Errno {
 	switch {
 	case !w.base() && !w.functions():
 		return api.ErrType
@@ -30,14 +31,20 @@ func (f former) look(w work[string]) api.Errno {
 
 // refine is what is wrong with the refinement of a base type. Of the scope only the names that stand in it are asked, so
 // that of many types each is not held against all names.
-func (f former) refine(w work[string]) api.Errno {
+func (f *former) refine(w work[string]) api.Errno {
 	formula, e := term.Expand(f.kappas, w.Refine)
 	if e != api.OK {
 		return e
 	}
 	var scope []api.Sorted
-	for _, one := range w.known(term.Free(formula)...) {
-		scope = append(scope, api.Sorted{Name: one.name, Sort: one.is})
+	for _, name := range term.Free(formula) {
+		sort, known := w.of(name)
+		if !known {
+			sort, known = f.sort(name)
+		}
+		if known {
+			scope = append(scope, api.Sorted{Name: name, Sort: sort})
+		}
 	}
 	sort, e := term.Sort(f.datas, append(scope, api.Sorted{Name: value, Sort: w.Sort}), formula)
 	if e == api.OK && sort != api.SortBool {
@@ -47,7 +54,7 @@ func (f former) refine(w work[string]) api.Errno {
 }
 
 // bind lets base parameters come into the scope: functions are known apart.
-func (f former) bind(p *api.Param) []named[string] {
+func (f *former) bind(p *api.Param) []named[string] {
 	if p.Type.Fun {
 		return nil
 	}

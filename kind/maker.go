@@ -25,9 +25,9 @@ func stays(p *api.Param) []named[*api.Term] {
 func put(w work[*api.Term]) api.Errno {
 	var l []string
 	var terms []api.Term
-	for _, one := range w.known(term.Free(w.Refine)...) {
-		if one.is != nil {
-			l, terms = append(l, one.name), append(terms, *one.is)
+	for _, name := range term.Free(w.Refine) {
+		if is, known := w.of(name); known && is != nil {
+			l, terms = append(l, name), append(terms, *is)
 		}
 	}
 	refine, e := term.Subst(w.Refine, l, terms)

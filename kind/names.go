@@ -33,13 +33,11 @@ func (n *names[T]) out(but int) {
 	}
 }
 
-// known are those of l that are in the scope, with what they are there.
-func (n *names[T]) known(l ...string) []named[T] {
-	var row []named[T]
-	for _, name := range l {
-		if places := n.places[name]; len(places) > 0 {
-			row = append(row, n.row[places[len(places)-1]])
-		}
+// of is what a name is, if it is in the scope.
+func (n *names[T]) of(name string) (is T, known bool) {
+	places := n.places[name]
+	if len(places) == 0 {
+		return is, false
 	}
-	return row
+	return n.row[places[len(places)-1]].is, true
 }
